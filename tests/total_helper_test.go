@@ -40,13 +40,13 @@ func numberRows(count int) [][]int {
 
 const spareMark = 777777
 
-// withSpare is a copy of a list with room behind it that nobody may touch.
-func withSpare(list []int) []int {
-	whole := append(slices.Clone(list), slices.Repeat([]int{spareMark}, 20)...)
+// withSpare is a copy of a list with room behind it, full of marks, that nobody may touch.
+func withSpare[T any](list []T, mark T) []T {
+	whole := append(slices.Clone(list), slices.Repeat([]T{mark}, 20)...)
 	return whole[:len(list)]
 }
 
-func whole(list []int) []int { return list[:cap(list)] }
+func whole[T any](list []T) []T { return list[:cap(list)] }
 
 func areZero(list []any) bool {
 	for _, r := range list {
@@ -88,16 +88,22 @@ func holdTotalOf(t *testing.T, calls []listCall, list []int) {
 	t.Helper()
 	for _, call := range calls {
 		for _, numbers := range numberRows(call.numbers) {
-			given := withSpare(list)
-			before := slices.Clone(whole(given))
-			ok, got := call.run(given, numbers)
-			if !slices.Equal(before, whole(given)) {
-				t.Fatalf("%s of %v and %v changed its argument", call.name, list, numbers)
-			}
-			if !ok && !areZero(got) {
-				t.Fatalf("%s of %v and %v fails with %v", call.name, list, numbers, got)
-			}
+			holdTotalRun(t, call.name, numbers, list, spareMark, func(given []int) (bool, []any) { return call.run(given, numbers) })
 		}
+	}
+}
+
+// holdTotalRun holds one run against promise 11, in which a function takes a list; what else it is told is there for the message.
+func holdTotalRun[T comparable](t *testing.T, name string, told any, list []T, mark T, run func([]T) (bool, []any)) {
+	t.Helper()
+	given := withSpare(list, mark)
+	before := slices.Clone(whole(given))
+	ok, got := run(given)
+	if !slices.Equal(before, whole(given)) {
+		t.Fatalf("%s of %v and %v changed its argument", name, list, told)
+	}
+	if !ok && !areZero(got) {
+		t.Fatalf("%s of %v and %v fails with %v", name, list, told, got)
 	}
 }
 
@@ -128,15 +134,20 @@ func holdOwnMemory(t *testing.T, calls []listCall) {
 	}
 }
 
-// holdOwnMemoryOf writes all over each slice of a result, with the room behind it, and looks for the marks elsewhere.
 func holdOwnMemoryOf(t *testing.T, call listCall, list []int, numbers []int) {
 	t.Helper()
-	given := withSpare(list)
+	holdOwnMemoryRun(t, call.name, numbers, list, spareMark, func(given []int) (bool, []any) { return call.run(given, numbers) })
+}
+
+// holdOwnMemoryRun writes all over each slice of a result, with the room behind it, and looks for the marks elsewhere.
+func holdOwnMemoryRun[T comparable](t *testing.T, name string, told any, list []T, mark T, run func([]T) (bool, []any)) {
+	t.Helper()
+	given := withSpare(list, mark)
 	before := slices.Clone(whole(given))
-	_, got := call.run(given, numbers)
-	_, again := call.run(given, numbers)
+	_, got := run(given)
+	_, again := run(given)
 	if !reflect.DeepEqual(got, again) {
-		t.Fatalf("%s of %v and %v is %v, and then %v", call.name, list, numbers, got, again)
+		t.Fatalf("%s of %v and %v is %v, and then %v", name, list, told, got, again)
 	}
 	parts := slicesOf(got)
 	for i, part := range parts {
@@ -145,13 +156,13 @@ func holdOwnMemoryOf(t *testing.T, call listCall, list []int, numbers []int) {
 			whole(part)[k] = -spareMark
 		}
 		if !slices.Equal(others, slices.Concat(slices.Delete(slices.Clone(parts), i, i+1)...)) {
-			t.Fatalf("%s of %v and %v: two results share memory", call.name, list, numbers)
+			t.Fatalf("%s of %v and %v: two results share memory", name, list, told)
 		}
 	}
 	if !slices.Equal(before, whole(given)) {
-		t.Fatalf("%s of %v and %v: a result shares memory with an argument", call.name, list, numbers)
+		t.Fatalf("%s of %v and %v: a result shares memory with an argument", name, list, told)
 	}
-	if _, after := call.run(given, numbers); !reflect.DeepEqual(after, again) {
-		t.Fatalf("%s of %v and %v: a result shares memory with a later one", call.name, list, numbers)
+	if _, after := run(given); !reflect.DeepEqual(after, again) {
+		t.Fatalf("%s of %v and %v: a result shares memory with a later one", name, list, told)
 	}
 }
