@@ -109,17 +109,7 @@ func dayCalls() []dateCall {
 
 // dateRows are all rows of so many of some dates.
 func dateRows(count int, from []impl.Date) [][]impl.Date {
-	rows := [][]impl.Date{{}}
-	for range count {
-		var longer [][]impl.Date
-		for _, row := range rows {
-			for _, d := range from {
-				longer = append(longer, append(slices.Clone(row), d))
-			}
-		}
-		rows = longer
-	}
-	return rows
+	return rowsOf(slices.Repeat([][]impl.Date{from}, count)...)
 }
 
 func allDates() []impl.Date { return append(goodDates(), badDates()...) }

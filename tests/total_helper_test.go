@@ -23,20 +23,23 @@ func oddNumbers() []int {
 	return ages(math.MinInt, math.MinInt+1, -impl.MaxAge-1, -impl.MaxAge, -1, 0, 1, 2, 3, 8, 9, 10, 20, 27, 99, 100, 101, impl.MaxAge, impl.MaxAge+1, 1990, impl.MaxBirth, impl.MaxBirth+1, impl.MaxYear, impl.MaxYear+1, 10000, 10001, math.MaxInt-1, math.MaxInt)
 }
 
-// numberRows are all rows of so many of the odd numbers.
-func numberRows(count int) [][]int {
-	rows := [][]int{{}}
-	for range count {
-		var longer [][]int
+// rowsOf are all rows with one out of each column, in order.
+func rowsOf[T any](columns ...[]T) [][]T {
+	rows := [][]T{{}}
+	for _, column := range columns {
+		var longer [][]T
 		for _, row := range rows {
-			for _, n := range oddNumbers() {
-				longer = append(longer, append(slices.Clone(row), n))
+			for _, one := range column {
+				longer = append(longer, append(slices.Clone(row), one))
 			}
 		}
 		rows = longer
 	}
 	return rows
 }
+
+// numberRows are all rows of so many of the odd numbers.
+func numberRows(count int) [][]int { return rowsOf(slices.Repeat([][]int{oddNumbers()}, count)...) }
 
 const spareMark = 777777
 
